@@ -16,13 +16,6 @@ func wantNoStripe(t *testing.T, what string, got impl.Stripe, ok bool) {
 	}
 }
 
-func wantNoDisk(t *testing.T, what string, got int, ok bool) {
-	t.Helper()
-	if ok || got != 0 {
-		t.Errorf("%s: got %d %v, want the zero answer", what, got, ok)
-	}
-}
-
 // texts are many of one length, of one letter each.
 func texts(many int, length int) []string {
 	l := make([]string, many)
@@ -271,10 +264,10 @@ func TestTwoWrongDisksThatLookLikeOne(t *testing.T) {
 	// 2^16 is that of no disk.
 	q, _ := impl.FieldPow(2, impl.MaxDisks)
 	got, ok := impl.FindWrong(impl.Stripe{Data: zero.Data, P: "\x01", Q: string([]byte{q})})
-	wantNoDisk(t, "a factor of no disk", got, ok)
+	wantNoNumber(t, "a factor of no disk", got, ok)
 	// 2 is that of the second disk, and this stripe has one.
 	got, ok = impl.FindWrong(impl.Stripe{Data: []string{"\x00"}, P: "\x01", Q: "\x02"})
-	wantNoDisk(t, "a factor of a disk that the stripe does not have", got, ok)
+	wantNoNumber(t, "a factor of a disk that the stripe does not have", got, ok)
 }
 
 func TestUpdateStripeAtTheEdges(t *testing.T) {

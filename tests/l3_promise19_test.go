@@ -36,7 +36,7 @@ func TestBadStripesAreRefused(t *testing.T) {
 			t.Errorf("CheckStripe: got %v %v, want the zero answer", right, ok)
 		}
 		disk, ok := impl.FindWrong(s)
-		wantNoDisk(t, "FindWrong", disk, ok)
+		wantNoNumber(t, "FindWrong", disk, ok)
 		for _, a := range numbers {
 			got, ok := impl.RecoverOne(s, a)
 			wantNoStripe(t, "RecoverOne", got, ok)
