@@ -134,48 +134,25 @@ func checkOddExtent(t *testing.T, good impl.Free, x impl.Extent) {
 // roomyFree has room behind its lists, with extents in it that are none of its.
 func roomyFree() impl.Free {
 	f := freeIn("x...x.x..x")
-	behind := []impl.Extent{{At: 77, Long: 7}, {At: 78, Long: 8}, {At: 79, Long: 9}}
-	f.ByPlace = append(slices.Clone(f.ByPlace), behind...)[:len(f.ByPlace)]
-	f.BySize = append(slices.Clone(f.BySize), behind...)[:len(f.BySize)]
+	behind := extents(77, 7, 78, 8, 79, 9)
+	f.ByPlace = withRoom(f.ByPlace, behind...)
+	f.BySize = withRoom(f.BySize, behind...)
 	return f
+}
+
+func listsOfFree(f impl.Free) [][]impl.Extent {
+	return [][]impl.Extent{f.ByPlace, f.BySize}
 }
 
 // wantRoomyFree also looks behind the lists' length.
 func wantRoomyFree(t *testing.T, what string, f impl.Free) {
 	t.Helper()
-	want := roomyFree()
-	if !sameFree(f, want) || !slices.Equal(f.ByPlace[:6], want.ByPlace[:6]) || !slices.Equal(f.BySize[:6], want.BySize[:6]) {
-		t.Errorf("%s: written into: %#v", what, f)
-	}
+	wantAsFresh(t, what, listsOfFree(f), listsOfFree(roomyFree()))
 }
 
-// wantFreeApart: the answer is its own memory at its whole capacity, each of its lists apart from the other.
 func wantFreeApart(t *testing.T, what string, f impl.Free, answer impl.Free) {
 	t.Helper()
-	wantRoomyFree(t, what, f)
-	for _, l := range [][]impl.Extent{answer.ByPlace, answer.BySize} {
-		for _, x := range l[:cap(l)] {
-			if x.At >= 77 {
-				t.Errorf("%s: %v is from behind the length", what, x)
-			}
-		}
-	}
-	held := impl.Free{Blocks: answer.Blocks, ByPlace: slices.Clone(answer.ByPlace), BySize: slices.Clone(answer.BySize)}
-	spoilt := extent(-9, -9)
-	spoil(f.ByPlace, spoilt)
-	spoil(f.BySize, spoilt)
-	if !sameFree(answer, held) {
-		t.Errorf("%s: the answer changed with the argument", what)
-	}
-	again := roomyFree()
-	copy(f.ByPlace[:6], again.ByPlace[:6])
-	copy(f.BySize[:6], again.BySize[:6])
-	spoil(answer.ByPlace, spoilt)
-	if !slices.Equal(answer.BySize, held.BySize) {
-		t.Errorf("%s: the two lists share memory", what)
-	}
-	spoil(answer.BySize, spoilt)
-	wantRoomyFree(t, what+", the answer spoilt", f)
+	wantListsApart(t, what, listsOfFree(f), listsOfFree(roomyFree()), listsOfFree(answer), extent(-9, -9))
 }
 
 func TestFreeRoomAnswersAreNewMemory(t *testing.T) {
