@@ -140,21 +140,22 @@ func TestPutRecordByHand(t *testing.T) {
 	}
 }
 
-// A Cycle that is more than 1000000 has no SlotSum: the record has 0 as its Sum, and is told as others are.
+// A Cycle that is more than 1000000 has no SlotSum: the record is put with 0 as its Sum, and lies in no slot as said, so that the ring is good no more.
 func TestPutRecordOfAGreatCycle(t *testing.T) {
-	for head, slots := range map[int]int{2000000: 2, 2000001: 2, 3000002: 3, 9999999: 2, 9000000: 9, 9999998: 4} {
-		r := ringAt(head, head, blankRing(slots).Slots)
-		got, ok := impl.PutRecord(r, "a")
-		s := got.Slots[head%slots]
-		if !ok || got.Head != head+1 || got.Tail != head || s != (impl.Slot{Cycle: head/slots + 1, Tail: head, Data: "a"}) || s.Cycle <= 1000000 {
-			t.Fatalf("PutRecord at %d of %d slots: got %v %v", head, slots, got, ok)
+	for slots := 2; slots <= 9; slots++ {
+		for _, head := range []int{1000000 * slots, 1000000*slots + 1, 1000000*slots + slots, 9999998, 9999999} {
+			got, ok := impl.PutRecord(ringAt(head, head, blankRing(slots).Slots), "a")
+			want := blankRing(slots).Slots
+			want[head%slots] = impl.Slot{Cycle: head/slots + 1, Tail: head, Data: "a"}
+			if !ok || !sameRing(got, ringAt(head+1, head, want)) || want[head%slots].Cycle <= 1000000 {
+				t.Fatalf("PutRecord at %d of %d slots: got %v %v", head, slots, got, ok)
+			}
+			wantRingRefused(t, "a Cycle beyond a slot's", got)
+			got.Tail++
+			wantRingRefused(t, "a Cycle beyond a slot's, ahead of Tail", got)
+			opened, ok := impl.OpenRing(got.Slots)
+			wantRing(t, "OpenRing", opened, ok, blankRing(slots))
 		}
-		if !impl.GoodRing(got) {
-			t.Errorf("%v is not good", got)
-		}
-		wantRecords(t, got, []string{"a"})
-		opened, ok := impl.OpenRing(got.Slots)
-		wantRing(t, "OpenRing", opened, ok, got)
 	}
 	got, ok := impl.PutRecord(ringIn("1999998 1999998: _ _"), "a")
 	if !ok || got.Slots[0].Cycle != 1000000 || got.Slots[0].Sum == 0 {
@@ -163,7 +164,7 @@ func TestPutRecordOfAGreatCycle(t *testing.T) {
 }
 
 func TestPutRecordIsRefused(t *testing.T) {
-	for _, text := range []string{"2 0: 1/0/a 1/0/b", "3 1: 2/1/c 1/0/b", "3 0: 1/0/a 1/0/b 1/0/c", "10000000 9999998: 5000000/9999998/a 5000000/9999998/b"} {
+	for _, text := range []string{"2 0: 1/0/a 1/0/b", "3 1: 2/1/c 1/0/b", "3 0: 1/0/a 1/0/b 1/0/c", "2000000 1999998: 1000000/1999998/a 1000000/1999998/b"} {
 		for _, data := range []string{"", "d", "abcdefghijkl"} {
 			got, ok := impl.PutRecord(ringIn(text), data)
 			wantNoRing(t, "PutRecord to a full ring", got, ok)
@@ -200,7 +201,8 @@ func TestRecordsAndRoomByHand(t *testing.T) {
 		"0 0: _ _": "", "3 3: 2/2/c 1/1/b": "", "10000000 10000000: _ _": "",
 		"1 0: 1/0/a _": "a", "2 0: 1/0/a 1/0/b": "a b", "2 1: 1/0/a 1/0/b": "b",
 		"4 2: 2/2/d 1/0/b 1/0/c": "c d", "3 1: 2/1/c 1/0/b": "b c", "7 4: 3/4/g 2/2/e 2/3/f": "e f g",
-		"10000000 9999998: 5000000/9999998/a 5000000/9999998/b": "a b",
+		"2000000 1999998: 1000000/1999998/a 1000000/1999998/b":                  "a b",
+		"10000000 9999998: _ _ _ _ _ _ _ _ 1000000/9999998/a 1000000/9999998/b": "a b",
 	} {
 		r := ringIn(text)
 		wantRecords(t, r, strings.Fields(want))
@@ -282,7 +284,13 @@ func TestOpenRingByHand(t *testing.T) {
 		{"a negative Cycle", "1/0/a -1/0/b", "1 0: 1/0/a _"},
 		{"a Tail that is none", "1/0/a 1/10000001/b", "1 0: 1/0/a _"},
 		{"the greatest Cycle", "_ 1000000/1999999/a", "2000000 1999999: _ 1000000/1999999/a"},
-		{"the greatest Head", "_ 5000000/9999999/a", "10000000 9999999: _ 5000000/9999999/a"},
+		{"the greatest Head", "_ _ _ _ _ _ _ _ _ 1000000/9999999/a", "10000000 9999999: _ _ _ _ _ _ _ _ _ 1000000/9999999/a"},
+		{"a Cycle beyond", "1000001/2000000/a _", "0 0: _ _"},
+		{"a Cycle beyond, the last", "1000001/1999999/a 1000000/1999998/b", "2000000 1999999: _ 1000000/1999998/b"},
+		{"a Cycle beyond, the last of three", "1000001/2999998/d 1000000/2999997/b 1000000/2999997/c", "3000000 2999998: _ 1000000/2999997/b 1000000/2999997/c"},
+		{"Cycles beyond, all", "1000001/3000000/a 1000001/3000000/b 1000001/3000001/c", "0 0: _ _ _"},
+		{"a Cycle much beyond, among others", "1/0/a 5000000/5/x 1/0/c", "3 2: _ _ 1/0/c"},
+		{"a Cycle that no Head gets to", "_ _ _ _ _ _ _ _ _ 1000001/9999999/a", "0 0: _ _ _ _ _ _ _ _ _ _"},
 	} {
 		got, ok := impl.OpenRing(slotsIn(c.slots))
 		wantRing(t, c.what, got, ok, ringIn(c.want))
@@ -294,8 +302,8 @@ func TestOpenRingIsRefused(t *testing.T) {
 		"no slots": "", "one slot": "_", "one record": "1/0/a",
 		"Tail more than the greatest number": "1/0/a 1/2/b", "Tail more than that, one record": "1/1/a _", "Tail much more": "1/0/a 1/10000000/b",
 		"an earlier Tail more than its number": "1/1/a 1/1/b", "an earlier Tail more than the last one's": "1/0/a 1/1/b 1/0/c",
-		"Head one more than the greatest": "5000000/9999998/a _ _", "Head much more": "_ _ _ _ _ _ _ _ _ _ _ 1000000/5/a",
-		"Head more than the greatest by one": "_ _ _ 2500001/9999999/a",
+		"Head one more than the greatest": "_ _ _ _ _ _ _ _ _ _ 909091/9999999/a", "Head much more": "_ _ _ _ _ _ _ _ _ _ _ 1000000/5/a",
+		"Head one more, with a record ahead": "_ _ _ 833334/9999998/a 833334/9999999/b _ _ _ _ _ _ _",
 	} {
 		got, ok := impl.OpenRing(slotsIn(slots))
 		wantNoRing(t, what, got, ok)

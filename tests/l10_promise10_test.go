@@ -147,11 +147,26 @@ func checkRing(t *testing.T, b logbook) {
 	wantNumber(t, "RoomFor", room, ok, b.slots-(b.head()-b.tail))
 }
 
+// checkBeyond: a record whose Cycle is more than a slot's is put as others are, but its ring is refused, and opened again has all but that.
+func checkBeyond(t *testing.T, b logbook, got impl.Ring, ok bool) {
+	t.Helper()
+	if !ok || !sameRing(got, b.ring()) {
+		t.Fatalf("PutRecord beyond: got %v %v, want %v", got, ok, b.ring())
+	}
+	wantRingRefused(t, "a record beyond", got)
+	wantOpenedWithoutLast(t, "a record beyond", b, got.Slots)
+}
+
+// checkPutRecord answers whether the book goes on with that record.
 func checkPutRecord(t *testing.T, b logbook, data string) (logbook, bool) {
 	t.Helper()
 	got, ok := impl.PutRecord(b.ring(), data)
 	if len(data) > 12 || b.head()-b.tail == b.slots || b.head() == 10000000 {
 		wantNoRing(t, "PutRecord", got, ok)
+		return b, false
+	}
+	if b.head() >= 1000000*b.slots {
+		checkBeyond(t, b.with(data), got, ok)
 		return b, false
 	}
 	wantRing(t, "PutRecord", got, ok, b.with(data).ring())
@@ -189,6 +204,18 @@ func wantOpened(t *testing.T, what string, b logbook, slots []impl.Slot, head in
 	wantRing(t, what, r, ok, want)
 }
 
+// wantOpenedWithoutLast: the ring has all records that count but the last one.
+func wantOpenedWithoutLast(t *testing.T, what string, b logbook, slots []impl.Slot) {
+	t.Helper()
+	last := b.head() - 1
+	if last == b.first {
+		got, ok := impl.OpenRing(slots)
+		wantRing(t, what+", the only one", got, ok, blankRing(b.slots))
+		return
+	}
+	wantOpened(t, what, b, slots, last, b.tail)
+}
+
 // checkOpenRing: opened again a ring has all records that count.
 func checkOpenRing(t *testing.T, b logbook) {
 	t.Helper()
@@ -200,11 +227,11 @@ func checkOpenRing(t *testing.T, b logbook) {
 	wantOpened(t, "OpenRing", b, b.ring().Slots, b.head(), b.tail)
 }
 
-// checkTorn: with its last record torn, so that its sum tells it, a ring has all that count but that. A record whose Cycle is more than a slot's has no sum that could.
+// checkTorn: with its last record torn, so that its sum tells it, a ring has all that count but that.
 func checkTorn(t *testing.T, b logbook) {
 	t.Helper()
 	last := b.head() - 1
-	if b.tail > last || last/b.slots+1 > 1000000 {
+	if b.tail > last {
 		return
 	}
 	r := b.ring()
@@ -218,12 +245,7 @@ func checkTorn(t *testing.T, b logbook) {
 			continue
 		}
 		r.Slots[last%b.slots] = torn
-		if last == b.first {
-			got, ok := impl.OpenRing(r.Slots)
-			wantRing(t, "the only record torn", got, ok, blankRing(b.slots))
-			continue
-		}
-		wantOpened(t, "the last record torn", b, r.Slots, last, b.tail)
+		wantOpenedWithoutLast(t, "the last record torn", b, r.Slots)
 	}
 }
 
@@ -271,7 +293,7 @@ func TestARowOfRingSteps(t *testing.T) {
 	}
 }
 
-// A ring that has no record yet may begin at any number. Up to the greatest Head each record is kept, also where its Cycle is more than a slot's.
+// A ring that has no record yet may begin at any number. Up to the greatest Head each record is kept, as long as its Cycle is a slot's.
 func TestRingsOfGreatNumbers(t *testing.T) {
 	for slots := 2; slots <= impl.MaxRing; slots++ {
 		for _, first := range []int{1, slots - 1, slots, 1000000*slots - 3, 1000000 * slots, 10000000 - 5*slots, 10000000 - slots, 10000000 - 1, 10000000} {
@@ -290,8 +312,8 @@ func TestRingsOfGreatNumbers(t *testing.T) {
 					checkBook(t, b)
 				}
 			}
-			if !did && b.head() != 10000000 {
-				t.Errorf("%d slots from %d on: refused at %d", slots, first, b.head())
+			if end := max(first, min(10000000, 1000000*slots)); !did && b.head() != end {
+				t.Errorf("%d slots from %d on: ended at %d, not at %d", slots, first, b.head(), end)
 			}
 		}
 	}

@@ -9,9 +9,9 @@ import (
 	"loop.example/g00261/impl"
 )
 
-// wholeByTrial: Sum is SlotSum, also where that is 0 as the Cycle is more than a slot's, but no more than that of any record.
+// wholeByTrial: a slot as said, with its Sum. A Sum of 0 alone does not make one of what is none.
 func wholeByTrial(s impl.Slot) bool {
-	return s.Cycle >= 0 && s.Cycle <= 5000000 && s.Tail >= 0 && s.Tail <= 10000000 && len(s.Data) <= 12 && s.Sum == sumByTrial(s)
+	return s.Cycle >= 0 && s.Cycle <= 1000000 && s.Tail >= 0 && s.Tail <= 10000000 && len(s.Data) <= 12 && s.Sum == sumByTrial(s)
 }
 
 // recordAt looks for the record of a slot: one that counts, else the last one ahead of these, -1 where there was none.
@@ -95,8 +95,8 @@ func goodRingTexts() []string {
 		"4 2: 2/2/d 1/0/b 1/0/c", "4 2: 2/2/d _ 1/1/c", "4 4: 2/2/d 1/1/b 1/1/c", "4 4: 2/2/d _ 1/1/c", "4 4: 2/2/d 1/0/b _", "4 4: _ _ _",
 		"6 3: 2/3/d 2/3/e 2/3/f", "6 4: 2/3/d 2/4/e 2/4/f", "7 6: 3/5/g 2/3/e 2/5/f", "7 4: 3/4/g 2/2/e 2/3/f",
 		"5 2: 2/2/ 1/0/abcdefghijkl 1/0/c 1/0/d", "5 5: 2/1/e _ 1/0/c _",
-		"10000000 9999998: 5000000/9999998/a 5000000/9999998/b", "10000000 10000000: _ _", "10000000 10000000: _ _ _", "1999999 1999998: 1000000/1999998/a 999999/1999997/b",
-		"2000001 2000000: 1000001/2000000/a 1000000/1999999/b", "3000003 3000001: 1000001/3000000/a 1000001/3000000/b 1000001/3000001/c",
+		"10000000 10000000: _ _", "10000000 10000000: _ _ _", "1999999 1999998: 1000000/1999998/a 999999/1999997/b",
+		"2000000 1999998: 1000000/1999998/a 1000000/1999998/b", "2000001 2000001: _ 1000000/1999999/b", "2000001 2000001: _ _", "3000002 3000002: _ _ 1000000/2999999/c",
 	}
 }
 
@@ -123,7 +123,11 @@ func badRings() map[string]impl.Ring {
 		"a Tail more than the ring's": ringIn("2 0: 1/0/a 1/1/b"), "more than the ring's, later": ringIn("4 2: 2/3/d 1/0/b 1/0/c"),
 		"Tails fall": ringIn("3 2: 2/0/c 1/1/b"), "Tails fall, ahead of Tail": ringIn("3 3: 1/0/a 1/1/b 1/0/c"), "Tails fall over a blank one": ringIn("4 4: 2/0/d _ 1/1/c"), "Tails fall, the first two": ringIn("4 3: 2/2/d 1/1/b 1/0/c"),
 		"a negative Tail": ringIn("1 0: 1/-1/a _"), "a negative Cycle": ringIn("1 1: -1/0/a _"), "data too long": ringIn("1 0: 1/0/abcdefghijklm _"),
-		"data too long where it counts no more": ringIn("1 1: 1/0/abcdefghijklm _"), "a Cycle more than a slot's, with another Sum": ringIn("2000001 2000000: 1000001/2000000/a! _"),
+		"data too long where it counts no more": ringIn("1 1: 1/0/abcdefghijklm _"), "a Cycle beyond, with another Sum": ringIn("2000001 2000000: 1000001/2000000/a! _"),
+		"a Cycle beyond a slot's": ringIn("2000001 2000000: 1000001/2000000/a _"), "a Cycle beyond ahead of Tail": ringIn("2000001 2000001: 1000001/2000000/a _"),
+		"a Cycle beyond, the last of two": ringIn("2000001 2000000: 1000001/2000000/a 1000000/1999999/b"), "Cycles beyond, all": ringIn("3000003 3000001: 1000001/3000000/a 1000001/3000000/b 1000001/3000001/c"),
+		"Cycles beyond, the greatest Head": ringIn("10000000 9999998: 5000000/9999998/a 5000000/9999998/b"), "a Cycle beyond of nine slots": ringIn("9000001 9000000: 1000001/9000000/a _ _ _ _ _ _ _ _"),
+		"a Cycle beyond where the record is of a lesser one": ringIn("1999999 1999998: 1000001/1999998/a _"),
 	}
 	for what, n := range map[string]int{"most": math.MaxInt, "least": math.MinInt, "nearly most": math.MaxInt - 1, "nearly least": math.MinInt + 1} {
 		l["Head "+what] = impl.Ring{Slots: slotsIn("_ _"), Head: n, Cycle: n/2 + 1}
