@@ -467,23 +467,9 @@ func allCowSteps(roots int, places []int, leaves ...string) []cowStep {
 	return l
 }
 
-// checkAllCows goes from one herd to all that steps lead to, till there are so many of them, and does each step in each.
 func checkAllCows(t *testing.T, h *herd, many int, steps []cowStep) {
 	t.Helper()
-	met := map[string]bool{fmt.Sprint(h.Cow): true}
-	for work := []*herd{h}; len(work) > 0; work = work[1:] {
-		checkHerd(t, work[0])
-		for _, step := range steps {
-			next := step(t, work[0])
-			if key := fmt.Sprint(next.Cow); !met[key] && len(met) < many {
-				met[key] = true
-				work = append(work, next)
-			}
-		}
-	}
-	if len(met) < min(many, 20) {
-		t.Errorf("%d cows were met", len(met))
-	}
+	checkAllWays(t, h, many, steps, checkHerd)
 }
 
 func TestCowsOfFewStepsInAllWays(t *testing.T) {
