@@ -264,32 +264,23 @@ func changedTreesOfNames(names impl.Names) []impl.Names {
 }
 
 func TestGoodNamesIsWhatTheWordsSay(t *testing.T) {
-	good, bad := 0, 0
-	count := func(is bool) {
-		if is {
-			good++
-		} else {
-			bad++
-		}
-	}
+	var c tally
 	for _, text := range goodRolls() {
 		if !goodByWords(treeOfNames(text)) {
 			t.Errorf("%s is not good by the words", text)
 		}
 		for _, one := range changedTreesOfNames(treeOfNames(text)) {
-			count(checkGoodTreeOfNames(t, one))
+			c.count(checkGoodTreeOfNames(t, one))
 		}
 	}
 	for _, text := range []string{"/a", "/a/ /a/b", "/a /b=/a", "/a/ -", "/a/ /b/ /a/c/"} {
 		for _, one := range changedTreesOfNames(treeOfNames(text)) {
 			for _, two := range changedTreesOfNames(one) {
-				count(checkGoodTreeOfNames(t, two))
+				c.count(checkGoodTreeOfNames(t, two))
 			}
 		}
 	}
-	if good < 200 || bad < 2000 {
-		t.Errorf("%d were good, %d were not", good, bad)
-	}
+	c.wantBoth(t, 200, 2000)
 }
 
 // fewInodes are all that may or may not stand in a list of three.

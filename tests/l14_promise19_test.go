@@ -278,32 +278,23 @@ func changedCows(c impl.Cow) []impl.Cow {
 }
 
 func TestGoodCowIsWhatTheWordsSay(t *testing.T) {
-	good, bad := 0, 0
-	count := func(is bool) {
-		if is {
-			good++
-		} else {
-			bad++
-		}
-	}
+	var c tally
 	for _, text := range goodCowTexts() {
 		if !goodCowByWords(cowIn(text)) {
 			t.Errorf("%s is not good by the words", text)
 		}
 		for _, one := range changedCows(cowIn(text)) {
-			count(checkGoodCow(t, one))
+			c.count(checkGoodCow(t, one))
 		}
 	}
 	for _, text := range []string{"1 . |", "1 0 0 | 2=a", "2 0 | 1/1,.,.,. 1=a", "2 0 2 | 1/1,.,.,. 2=a 1/1,.,.,.", "3 0 | 1/1,.,.,. 1/2,.,.,. 1=a"} {
 		for _, one := range changedCows(cowIn(text)) {
 			for _, two := range changedCows(one) {
-				count(checkGoodCow(t, two))
+				c.count(checkGoodCow(t, two))
 			}
 		}
 	}
-	if good < 200 || bad < 5000 {
-		t.Errorf("%d were good, %d were not", good, bad)
-	}
+	c.wantBoth(t, 200, 5000)
 }
 
 // fewCells are all that may or may not stand in a list of three.

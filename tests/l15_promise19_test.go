@@ -232,32 +232,23 @@ func changedVaults(v impl.Vault) []impl.Vault {
 }
 
 func TestGoodVaultIsWhatTheWordsSay(t *testing.T) {
-	good, bad := 0, 0
-	count := func(is bool) {
-		if is {
-			good++
-		} else {
-			bad++
-		}
-	}
+	var c tally
 	for _, text := range goodVaultTexts() {
 		if !goodVaultByWords(vaultIn(text)) {
 			t.Errorf("%s is not good by the words", text)
 		}
 		for _, one := range changedVaults(vaultIn(text)) {
-			count(checkGoodVault(t, one))
+			c.count(checkGoodVault(t, one))
 		}
 	}
 	for _, text := range []string{"|", "a=1 | 0", "a=2 b=1 | 0,1 0"} {
 		for _, one := range changedVaults(vaultIn(text)) {
 			for _, two := range changedVaults(one) {
-				count(checkGoodVault(t, two))
+				c.count(checkGoodVault(t, two))
 			}
 		}
 	}
-	if good < 200 || bad < 1500 {
-		t.Errorf("%d were good, %d were not", good, bad)
-	}
+	c.wantBoth(t, 200, 1500)
 }
 
 func TestVaultsOfFewPiecesInAllWays(t *testing.T) {
